@@ -191,6 +191,11 @@ func spoil(result any) {
 		for i := range v {
 			v[i] = -9
 		}
+	case [][]int64:
+		for _, list := range v {
+			spoil(list)
+		}
+		clear(v[:cap(v)])
 	}
 }
 
