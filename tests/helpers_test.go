@@ -37,6 +37,10 @@ func same(a, b any) bool {
 		q, ok := b.(impl.Picture)
 		return ok && same(p.Rows, q.Rows)
 	}
+	if e, ok := a.(impl.Element); ok {
+		f, ok := b.(impl.Element)
+		return ok && same(e.Offsets, f.Offsets)
+	}
 	x, y := reflect.ValueOf(a), reflect.ValueOf(b)
 	if x.Kind() == reflect.Slice && y.Kind() == reflect.Slice && x.Type() == y.Type() && x.Len() == 0 {
 		return y.Len() == 0

@@ -176,6 +176,8 @@ func spoil(result any) {
 	switch v := result.(type) {
 	case impl.Picture:
 		spoil(v.Rows)
+	case impl.Element:
+		spoil(v.Offsets)
 	case []string:
 		v = v[:cap(v)]
 		for i := range v {
