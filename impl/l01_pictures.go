@@ -193,6 +193,29 @@ func (m *matrix) set(x, y int64, black bool) {
 	}
 }
 
+// blacks returns the black pixels in reading order.
+func (m matrix) blacks() []Spot {
+	var spots []Spot
+	for y := range m.height {
+		for x := range m.width {
+			if m.black(x, y) {
+				spots = append(spots, Spot{X: x, Y: y})
+			}
+		}
+	}
+	return spots
+}
+
+// isInside reports whether all black pixels of m are black in another matrix of its size.
+func (m matrix) isInside(other matrix) bool {
+	for y, row := range m.rows {
+		if row&^other.rows[y] != 0 {
+			return false
+		}
+	}
+	return true
+}
+
 func (m matrix) rowText(y int64) string {
 	var text bytes.Buffer
 	for x := range m.width {
@@ -317,15 +340,7 @@ func SpotsOf(p Picture) ([]Spot, bool) {
 	if !ok {
 		return nil, false
 	}
-	var spots []Spot
-	for y := range m.height {
-		for x := range m.width {
-			if m.black(x, y) {
-				spots = append(spots, Spot{X: x, Y: y})
-			}
-		}
-	}
-	return spots, true
+	return m.blacks(), true
 }
 
 // PictureFrom returns the picture with some black pixels.
@@ -441,15 +456,7 @@ func CropPicture(p Picture, from Spot, width, height int64) (Picture, bool) {
 // IsInside reports whether all black pixels of one picture are black in another one.
 func IsInside(p, q Picture) bool {
 	a, b, ok := matricesOf(p, q)
-	if !ok {
-		return false
-	}
-	for y, row := range a.rows {
-		if row&^b.rows[y] != 0 {
-			return false
-		}
-	}
-	return true
+	return ok && a.isInside(b)
 }
 
 // PictureText returns the text of a picture.

@@ -188,6 +188,11 @@ func spoil(result any) {
 		for i := range v {
 			v[i] = impl.Spot{X: -9, Y: -9}
 		}
+	case []impl.Disc:
+		v = v[:cap(v)]
+		for i := range v {
+			v[i] = impl.Disc{X: -9, Y: -9, Radius: -9}
+		}
 	case []int64:
 		v = v[:cap(v)]
 		for i := range v {
