@@ -41,6 +41,14 @@ func same(a, b any) bool {
 		f, ok := b.(impl.Element)
 		return ok && same(e.Offsets, f.Offsets)
 	}
+	if g, ok := a.(impl.Grey); ok {
+		h, ok := b.(impl.Grey)
+		return ok && same(g.Rows, h.Rows)
+	}
+	if t, ok := a.(impl.GreyTree); ok {
+		u, ok := b.(impl.GreyTree)
+		return ok && same(t.Levels, u.Levels) && same(t.Parents, u.Parents) && same(t.Areas, u.Areas) && same(t.Nodes, u.Nodes)
+	}
 	x, y := reflect.ValueOf(a), reflect.ValueOf(b)
 	if x.Kind() == reflect.Slice && y.Kind() == reflect.Slice && x.Type() == y.Type() && x.Len() == 0 {
 		return y.Len() == 0

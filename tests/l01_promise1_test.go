@@ -178,6 +178,13 @@ func spoil(result any) {
 		spoil(v.Rows)
 	case impl.Element:
 		spoil(v.Offsets)
+	case impl.Grey:
+		spoil(v.Rows)
+	case impl.GreyTree:
+		spoil(v.Levels)
+		spoil(v.Parents)
+		spoil(v.Areas)
+		spoil(v.Nodes)
 	case []string:
 		v = v[:cap(v)]
 		for i := range v {
