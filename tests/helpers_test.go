@@ -2,6 +2,7 @@ package tests
 
 import (
 	"reflect"
+	"slices"
 	"strings"
 	"testing"
 
@@ -48,6 +49,10 @@ func same(a, b any) bool {
 	if t, ok := a.(impl.GreyTree); ok {
 		u, ok := b.(impl.GreyTree)
 		return ok && same(t.Levels, u.Levels) && same(t.Parents, u.Parents) && same(t.Areas, u.Areas) && same(t.Nodes, u.Nodes)
+	}
+	if d, ok := a.(impl.Desk); ok {
+		e, ok := b.(impl.Desk)
+		return ok && same(d.Names, e.Names) && slices.EqualFunc(d.Pictures, e.Pictures, func(p, q impl.Picture) bool { return same(p, q) })
 	}
 	x, y := reflect.ValueOf(a), reflect.ValueOf(b)
 	if x.Kind() == reflect.Slice && y.Kind() == reflect.Slice && x.Type() == y.Type() && x.Len() == 0 {

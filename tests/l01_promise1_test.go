@@ -185,6 +185,12 @@ func spoil(result any) {
 		spoil(v.Parents)
 		spoil(v.Areas)
 		spoil(v.Nodes)
+	case impl.Desk:
+		for _, p := range v.Pictures {
+			spoil(p)
+		}
+		clear(v.Pictures[:cap(v.Pictures)])
+		spoil(v.Names)
 	case []string:
 		v = v[:cap(v)]
 		for i := range v {
